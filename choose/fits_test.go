@@ -327,6 +327,14 @@ func TestNothingOfNothing(t *testing.T) {
 	if none.Text() != "" || none.Size() != 0 || none.Weight(0) != [3]int{} || none.Fits(0, d, 1, State{}) {
 		t.Error("a nil list")
 	}
+	for _, f := range []*Finder{none.Finder(d, State{}), none.Finder(nil, State{}), l.Finder(nil, State{})} {
+		if w, ok := f.Greatest(1); ok || w != [3]int{} {
+			t.Error("a finder of nothing")
+		}
+	}
+	if w, ok := l.Finder(d, State{}).Greatest(1); !ok || w != [3]int{0, 0, 1} {
+		t.Error(w, ok)
+	}
 }
 
 // TestNothingIsKept: what is handed over is only read, and a tree that changed is asked anew.

@@ -422,6 +422,19 @@ func (g grove) hold(t *testing.T, made madeList, text string) {
 			}
 		}
 	}
+	finder := l.Finder(g.Tree, g.State)
+	for id := -1; id <= g.Size(); id++ {
+		most := -1
+		for i := range made {
+			if slices.Contains(g.set(made[i]), id) {
+				most = max(most, made.worth(i))
+			}
+		}
+		w, ok := finder.Greatest(id)
+		if ok != (most >= 0) || w[0]*1e8+w[1]*1e4+w[2] != max(most, 0) {
+			t.Fatalf("%q, of %d: %v %v, want %d", text, id, w, ok, most)
+		}
+	}
 	for root := range g.Size() {
 		var want []int
 		for _, id := range g.Under(root) {

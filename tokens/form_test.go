@@ -65,6 +65,7 @@ func TestForm(t *testing.T) {
 		"'a'/**/'b'":                   `"a""b"`,
 		"a/**/'b'/**/c":                `a"b"c`,
 		"a,/**/b;c:/**/d!/**/e":        "a,b;c:d!e",
+		"\"a\nb":                       "\"a/**/ b",
 		"\x80/**/\xff'\x80\\\xff'\xc3": "\x80/**/\xff\"\x80\xff\"\xc3",
 	} {
 		if got := Form(Cut(text)); got != want {
@@ -174,6 +175,72 @@ func TestTrim(t *testing.T) {
 	}
 }
 
+// TestJoin: what was told piece by piece is told as one, wherever it was cut.
+func TestJoin(t *testing.T) {
+	all := Cut(" a/**/b 1/**/px /**/ -/**/-/**/(c d) 'e'#f/**/g @/**/h 2/**/.5 /**/% ")
+	for from := range all {
+		for to := from; to <= len(all); to++ {
+			list := all[from:to]
+			for i := range len(list) + 1 {
+				holdJoin(t, list, list[:i], list[i:])
+				holdJoin(t, list, nil, list[:i], nil, list[i:i], list[i:], nil)
+				holdJoin(t, list, list[:i/2], list[i/2:i], list[i:])
+			}
+		}
+	}
+	if one := Join(nil); one.Text != "" || one.Count != 0 {
+		t.Error("nothing is nothing")
+	}
+}
+
+func holdJoin(t *testing.T, list []Token, lists ...[]Token) {
+	t.Helper()
+	var pieces []Told
+	for _, l := range lists {
+		pieces = append(pieces, Tell(l))
+	}
+	got, want := Join(pieces), Join([]Told{Tell(list)})
+	if got != want || got.Text != Form(list) {
+		t.Fatalf("%+v, want %+v", got, want)
+	}
+	count := 0
+	for _, one := range list {
+		if one.Kind != Blanks {
+			count++
+		}
+	}
+	if got.Count != count {
+		t.Fatalf("%q: %d tokens, want %d", got.Text, got.Count, count)
+	}
+}
+
+func TestClosed(t *testing.T) {
+	for text, want := range map[string]string{
+		"":           "",
+		"  ":         "",
+		" a b ":      "a b",
+		" f(a ":      "f(a)",
+		"f([{(a":     "f([{(a)}])",
+		"f(a)[":      "f(a)[]",
+		"(]":         "(])",
+		"([)":        "([)])",
+		"a)]}":       "a)]}",
+		"{)} f( g()": "{)} f( g())",
+	} {
+		list := Cut(text)
+		if got := Form(Closed(list)); got != want {
+			t.Errorf("%q: %q, want %q", text, got, want)
+		}
+		if !same(list, Cut(text)) {
+			t.Errorf("%q: what was handed over is changed", text)
+		}
+	}
+	list := Cut("f( a;b")
+	if Closed(list[:3]); !list[3].Is(";") {
+		t.Error("what stands behind is changed")
+	}
+}
+
 func TestPartners(t *testing.T) {
 	for text, want := range map[string][]int{
 		"":            {},
@@ -257,6 +324,17 @@ func TestParts(t *testing.T) {
 	} {
 		if got := Parts(thousandths); got != want {
 			t.Errorf("%d: %d, want %d", thousandths, got, want)
+		}
+	}
+}
+
+func TestShare(t *testing.T) {
+	for _, c := range [][4]int{
+		{0, 5, 1000, 0}, {5, 0, 1000, 0}, {1024, 1500, 1000, 1536}, {1024, 50000, 100000, 512}, {3, 500, 1000, 1}, {3, -500, 1000, -2}, {2, -500, 1000, -1},
+		{api.MaxLen, 1000, 1000, api.MaxLen}, {api.MaxLen, 1001, 1000, api.MaxLen}, {api.MaxLen, 1000000000, 1000, api.MaxLen}, {api.MaxLen, -1000000000, 1000, -api.MaxLen}, {api.MaxLen, 999, 1000, 16760438},
+	} {
+		if got := Share(c[0], c[1], c[2]); got != c[3] {
+			t.Errorf("%v: %d", c, got)
 		}
 	}
 }

@@ -30,10 +30,13 @@ func (t Token) Thousandths() (int, bool) {
 }
 
 // Parts of a pixel in thousandths of one, rounded down and at most MaxLen in size.
-func Parts(thousandths int) int {
-	n := thousandths * api.Unit
-	parts := n / 1000
-	if n%1000 < 0 {
+func Parts(thousandths int) int { return Share(api.Unit, thousandths, 1000) }
+
+// Share of a length: n of as many as make it up, rounded down and at most MaxLen in size.
+func Share(length, n, all int) int {
+	product := length * n
+	parts := product / all
+	if product%all < 0 {
 		parts--
 	}
 	return max(-api.MaxLen, min(parts, api.MaxLen))

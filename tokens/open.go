@@ -1,5 +1,7 @@
 package tokens
 
+import "slices"
+
 // Closer: the sign that closes what a token opens; empty, if it opens nothing.
 func (t Token) Closer() string {
 	switch {
@@ -34,4 +36,17 @@ func Partners(list []Token) []int {
 		}
 	}
 	return partners
+}
+
+// Closed: a list without the blanks at its ends, and with what closes what its end closes.
+func Closed(list []Token) []Token {
+	list = Trim(list)
+	closed := slices.Clone(list)
+	partners := Partners(list)
+	for at := len(list) - 1; at >= 0; at-- {
+		if partners[at] == len(list) {
+			closed = append(closed, Token{Kind: Sign, Word: list[at].Closer()})
+		}
+	}
+	return closed
 }
