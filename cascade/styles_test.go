@@ -347,3 +347,24 @@ func TestTextsThatAreReadOtherwise(t *testing.T) {
 		t.Error(got)
 	}
 }
+
+// What is handed down is the parent's, be it told or handed down to it; all else is as of an element of which nothing is told.
+func TestHandDown(t *testing.T) {
+	rules := "b{"
+	for _, c := range []string{"color:red", "font-size:2em", "line-height:150%", "text-align:center", "text-indent:-1em", "white-space:pre", "visibility:hidden", "pointer-events:none", "list-style-type:decimal", "--x:1", "--y:var(--x) 2", "border:2px blue", "background:red", "display:flex", "position:fixed", "margin:1em", "content:'x'", "counter-reset:n", "flex:2", "gap:1px", "vertical-align:super", "width:50%"} {
+		rules += c + ";"
+	}
+	for _, r := range []string{"", rules + "}", rules + "}a{--z:3;color:blue;font-size:3px}", "a{color:transparent;border-color:red;--z:3}"} {
+		all := styled(t, "<a><b><c>", r)
+		parent := all[1]
+		got := HandDown(parent)
+		if fmt.Sprint(got) != fmt.Sprint(all[2]) {
+			t.Errorf("%s: %v, want %v", r, got, all[2])
+		}
+		clear(got.V)
+		clear(got.Vars)
+		if fmt.Sprint(parent) != fmt.Sprint(styled(t, "<a><b><c>", r)[1]) {
+			t.Errorf("%s: the parent's style is another one", r)
+		}
+	}
+}
