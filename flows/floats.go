@@ -1,0 +1,132 @@
+package flows
+
+import (
+	"slices"
+
+	"casement/api"
+)
+
+// Floats in a room.
+type Floats struct {
+	list      *[]Float // of all rooms that are told of the same floats
+	low, high int
+}
+
+// Float: on which side, where.
+type Float struct {
+	Right bool
+	Rect  api.Rect
+}
+
+// New: a room without floats.
+func New(width int) *Floats {
+	return (&Floats{list: new([]Float)}).In(0, width)
+}
+
+// In: the same floats, told in another room.
+func (f *Floats) In(low, high int) *Floats {
+	hold(&low, &high)
+	return &Floats{f.list, low, max(low, high)}
+}
+
+// Add one more; where it lies.
+func (f *Floats) Add(right bool, w, h, from int) (x, y int) {
+	if len(*f.list) >= api.MaxItems {
+		return 0, 0
+	}
+	hold(&w, &h, &from)
+	w, h = max(w, 0), max(h, 0)
+	next := f.heights(from)
+	y = next()
+	g := f.gap(y, h)
+	for !g.takes(w) {
+		y = next()
+		g = f.gap(y, h)
+	}
+	x = g.left
+	if right {
+		x = g.right - w
+	}
+	*f.list = append(*f.list, Float{right, api.Rect{X: x, Y: y, W: w, H: h}})
+	return x, y
+}
+
+// heights at which one more may lie, from the least on, the next one with each call. No float begins below the first of them, so there is more room only where one ends; where the last one ends, none is in the way any more, and nobody asks for a further one.
+func (f *Floats) heights(from int) func() int {
+	for _, o := range *f.list {
+		from = max(from, o.Rect.Y)
+	}
+	list := []int{from}
+	for _, o := range *f.list {
+		if o.foot() > from {
+			list = append(list, o.foot())
+		}
+	}
+	slices.Sort(list)
+	return func() int {
+		y := list[0]
+		list = list[1:]
+		return y
+	}
+}
+
+// foot: where a float ends that is in the way of others; none is so flat that it is not.
+func (o Float) foot() int {
+	return o.Rect.Y + max(o.Rect.H, 1)
+}
+
+// gap between the floats on both sides of a room.
+type gap struct {
+	left, right int
+	whole       bool // no float reaches in
+}
+
+// gap from y on, h high.
+func (f *Floats) gap(y, h int) gap {
+	g := gap{f.low, f.high, true}
+	for _, o := range *f.list {
+		if o.Rect.Y >= y+max(h, 1) || y >= o.foot() {
+			continue
+		}
+		g.whole = false
+		if o.Right {
+			g.right = min(g.right, o.Rect.X)
+		} else {
+			g.left = max(g.left, o.Rect.X+o.Rect.W)
+		}
+	}
+	return g
+}
+
+// takes: whether what is so wide may lie there. What is too wide for the room lies where it is alone.
+func (g gap) takes(w int) bool {
+	return g.whole || w <= g.right-g.left
+}
+
+// Edges of what is there between two heights.
+func (f *Floats) Edges(y, h int) (l, r int) {
+	hold(&y, &h)
+	g := f.gap(y, h)
+	return g.left, g.right
+}
+
+// Clear: where the floats of some sides end.
+func (f *Floats) Clear(left, right bool) int {
+	low, found := 0, false
+	for _, o := range *f.list {
+		if o.Right && !right || !o.Right && !left {
+			continue
+		}
+		// All of them may end above 0: that is no end of them.
+		end := o.Rect.Y + o.Rect.H
+		if !found || end > low {
+			low, found = end, true
+		}
+	}
+	return low
+}
+
+// All floats, as they came.
+func (f *Floats) All() []Float {
+	return slices.Clone(*f.list)
+}
