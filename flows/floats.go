@@ -4,6 +4,7 @@ import (
 	"slices"
 
 	"casement/api"
+	"casement/lengths"
 )
 
 // Floats in a room.
@@ -25,7 +26,7 @@ func New(width int) *Floats {
 
 // In: the same floats, told in another room.
 func (f *Floats) In(low, high int) *Floats {
-	hold(&low, &high)
+	lengths.Hold(&low, &high)
 	return &Floats{f.list, low, max(low, high)}
 }
 
@@ -34,7 +35,7 @@ func (f *Floats) Add(right bool, w, h, from int) (x, y int) {
 	if len(*f.list) >= api.MaxItems {
 		return 0, 0
 	}
-	hold(&w, &h, &from)
+	lengths.Hold(&w, &h, &from)
 	w, h = max(w, 0), max(h, 0)
 	next := f.heights(from)
 	y = next()
@@ -105,7 +106,7 @@ func (g gap) takes(w int) bool {
 
 // Edges of what is there between two heights.
 func (f *Floats) Edges(y, h int) (l, r int) {
-	hold(&y, &h)
+	lengths.Hold(&y, &h)
 	g := f.gap(y, h)
 	return g.left, g.right
 }

@@ -1,5 +1,9 @@
 package flows
 
+import (
+	"casement/lengths"
+)
+
 // Width of a block in a room.
 type Width struct {
 	Room, Left, Inner, Right, Around, Min, Max int
@@ -8,13 +12,13 @@ type Width struct {
 
 // Solve: both margins and what is within.
 func (w Width) Solve() (left, inner, right int) {
-	hold(&w.Room, &w.Left, &w.Inner, &w.Right, &w.Around, &w.Min, &w.Max)
+	lengths.Hold(&w.Room, &w.Left, &w.Inner, &w.Right, &w.Around, &w.Min, &w.Max)
 	s := sidesOf(w.Left, w.Right, w.AutoLeft, w.AutoRight)
 	free := w.Room - w.Around - s.left - s.right
 	if w.AutoInner {
 		w.Inner = max(free, 0)
 	}
-	inner, anew := bounded(w.Inner, w.Min, w.Max)
+	inner, anew := lengths.Bounded(w.Inner, w.Min, w.Max)
 	if w.AutoInner && !anew {
 		return s.left, inner, s.right
 	}
@@ -33,11 +37,11 @@ type Fixed struct {
 
 // Solve: where it begins, both margins, what is within.
 func (f Fixed) Solve() (from, left, inner, right int) {
-	hold(&f.Room, &f.From, &f.To, &f.Left, &f.Inner, &f.Right, &f.Around, &f.Fit, &f.Min, &f.Max, &f.At)
+	lengths.Hold(&f.Room, &f.From, &f.To, &f.Left, &f.Inner, &f.Right, &f.Around, &f.Fit, &f.Min, &f.Max, &f.At)
 	s := sidesOf(f.Left, f.Right, f.AutoLeft, f.AutoRight)
 	free := f.Room - f.Around - s.left - s.right
 	both := !f.AutoFrom && !f.AutoTo
-	inner, anew := bounded(f.first(free, both), f.Min, f.Max)
+	inner, anew := lengths.Bounded(f.first(free, both), f.Min, f.Max)
 	if both && (!f.AutoInner || anew) {
 		s.take(free - f.From - f.To - inner)
 	}
@@ -64,17 +68,6 @@ func (f Fixed) begin(free int) int {
 		return free - f.To
 	}
 	return f.At
-}
-
-// bounded: a length held by its bounds; anew: one of them counts, so that the length is told.
-func bounded(n, least, most int) (held int, anew bool) {
-	if most >= 0 && n > most {
-		n, anew = most, true
-	}
-	if least = max(least, 0); n < least {
-		n, anew = least, true
-	}
-	return n, anew
 }
 
 // sides: margins on both; those that are auto are 0 until they take what is left.
