@@ -2,7 +2,6 @@ package flex
 
 import (
 	"cmp"
-	"math/bits"
 
 	"casement/lengths"
 )
@@ -38,7 +37,7 @@ type part struct {
 
 // rowOf items: those are settled that take no part in sharing.
 func rowOf(items []Item, room, gap int) *row {
-	wants := gaps(len(items), gap)
+	wants := lengths.Gaps(len(items), gap)
 	r := &row{room: room - wants}
 	for _, i := range items {
 		wants += i.want()
@@ -101,7 +100,7 @@ func (r *row) deal(open []*part) {
 		weights = append(weights, r.weight(p.Item))
 	}
 	moved := 0
-	for k, n := range shares(r.amount(open), weights) {
+	for k, n := range lengths.Shares(r.amount(open), weights, 0) {
 		p := open[k]
 		p.size = p.within(p.Base + n)
 		p.moved = p.size - p.Base - n
@@ -130,37 +129,4 @@ func (r *row) amount(open []*part) int {
 // magnitude: how far a number is from 0.
 func magnitude(n int) int {
 	return max(n, -n)
-}
-
-// shares of an amount by weights. Each reaches from where the one ahead ends, so that all of them are the amount, however they are rounded.
-func shares(amount int, weights []int) []int {
-	all := 0
-	for _, w := range weights {
-		all += w
-	}
-	l := make([]int, len(weights))
-	if all == 0 {
-		return l
-	}
-	sum, from := 0, 0
-	for k, w := range weights {
-		sum += w
-		to := portion(amount, sum, all)
-		l[k] = to - from
-		from = to
-	}
-	return l
-}
-
-// portion of an amount: n of all, where n is not above all; rounded down, below 0 too. Amount times n may be more than 64 bits hold.
-func portion(amount, n, all int) int {
-	high, low := bits.Mul64(uint64(magnitude(amount)), uint64(n))
-	whole, rest := bits.Div64(high, low, uint64(all))
-	if amount >= 0 {
-		return int(whole)
-	}
-	if rest > 0 {
-		whole++
-	}
-	return -int(whole)
 }

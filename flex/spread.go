@@ -1,6 +1,7 @@
 package flex
 
 import (
+	"casement/api"
 	"casement/lengths"
 )
 
@@ -17,8 +18,8 @@ const (
 // Spread things: where each begins.
 func Spread(l []int, room, gap, how int) []int {
 	lengths.Hold(&room, &gap)
-	l = firsts(l)
-	left := room - gaps(len(l), gap)
+	l = lengths.Firsts(l, api.MaxItems)
+	left := room - lengths.Gaps(len(l), gap)
 	var places []int
 	at := 0
 	for _, w := range l {

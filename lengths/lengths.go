@@ -1,4 +1,4 @@
-// Package lengths: what numbers that are handed over as lengths are held to.
+// Package lengths: what numbers and lists that are handed over are held to, and how lengths are shared.
 package lengths
 
 import (
@@ -21,4 +21,19 @@ func Bounded(n, least, most int) (held int, anew bool) {
 		n, anew = least, true
 	}
 	return n, anew
+}
+
+// Factor: a number as it counts as one, in thousandths.
+func Factor(n int) int {
+	return min(max(n, 0), api.MaxNum*1000)
+}
+
+// Firsts of a list of anything: at most so many (of less than none: none). It is a piece of the list itself.
+func Firsts[T any](l []T, most int) []T {
+	return l[:min(len(l), max(most, 0))]
+}
+
+// Gaps between so many things, together.
+func Gaps(things, gap int) int {
+	return max(things-1, 0) * gap
 }

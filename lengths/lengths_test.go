@@ -48,3 +48,38 @@ func TestBounded(t *testing.T) {
 		}
 	}
 }
+
+// A factor is not below 0, and not above what a number of a sheet may be, in thousandths.
+func TestFactor(t *testing.T) {
+	most := api.MaxNum * 1000
+	for _, c := range [][2]int{{math.MinInt, 0}, {-1, 0}, {0, 0}, {1, 1}, {most - 1, most - 1}, {most, most}, {most + 1, most}, {math.MaxInt, most}} {
+		if got := Factor(c[0]); got != c[1] {
+			t.Error(c, got)
+		}
+	}
+}
+
+// The first ones of a list of anything.
+func TestFirsts(t *testing.T) {
+	l := []string{"a", "b", "c"}
+	for most, want := range [][]string{nil, {"a"}, {"a", "b"}, l, l} {
+		if got := Firsts(l, most); !slices.Equal(got, want) {
+			t.Error(most, got)
+		}
+	}
+	if got := Firsts(l, math.MinInt); len(got) != 0 {
+		t.Error(got)
+	}
+	if got := Firsts([]int(nil), 3); len(got) != 0 {
+		t.Error(got)
+	}
+}
+
+// There is one gap less than there are things, and none without things.
+func TestGaps(t *testing.T) {
+	for _, c := range []struct{ things, gap, want int }{{-1, 5, 0}, {0, 5, 0}, {1, 5, 0}, {2, 5, 5}, {4, 5, 15}, {4, -5, -15}} {
+		if got := Gaps(c.things, c.gap); got != c.want {
+			t.Errorf("%+v: %d", c, got)
+		}
+	}
+}
