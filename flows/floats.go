@@ -37,13 +37,10 @@ func (f *Floats) Add(right bool, w, h, from int) (x, y int) {
 	}
 	lengths.Hold(&w, &h, &from)
 	w, h = max(w, 0), max(h, 0)
-	next := f.heights(from)
-	y = next()
-	g := f.gap(y, h)
-	for !g.takes(w) {
-		y = next()
-		g = f.gap(y, h)
+	for _, o := range *f.list {
+		from = max(from, o.Rect.Y)
 	}
+	y, g := f.fall(w, h, from)
 	x = g.left
 	if right {
 		x = g.right - w
@@ -52,22 +49,38 @@ func (f *Floats) Add(right bool, w, h, from int) (x, y int) {
 	return x, y
 }
 
-// heights at which one more may lie, from the least on, the next one with each call. No float begins below the first of them, so there is more room only where one ends; where the last one ends, none is in the way any more, and nobody asks for a further one.
-func (f *Floats) heights(from int) func() int {
-	for _, o := range *f.list {
-		from = max(from, o.Rect.Y)
+// Drop: the least height, from y on, at which what is so wide, and flat, has room beside the floats that are there, or none is.
+func (f *Floats) Drop(w, y int) int {
+	lengths.Hold(&w, &y)
+	y, _ = f.fall(w, 0, y)
+	return y
+}
+
+// fall: the least height, from y on, at which what is so wide and high may lie, and the gap there.
+func (f *Floats) fall(w, h, y int) (int, gap) {
+	next := f.heights(y)
+	y = next()
+	g := f.gap(y, h)
+	for !g.takes(w) {
+		y = next()
+		g = f.gap(y, h)
 	}
-	list := []int{from}
+	return y, g
+}
+
+// heights from y on at which there may be room for something, from the least on, the next one with each call. There is more room only where a float ends; where the last one does, none is in the way any more, and nobody asks for a further one.
+func (f *Floats) heights(y int) func() int {
+	list := []int{y}
 	for _, o := range *f.list {
-		if o.foot() > from {
+		if o.foot() > y {
 			list = append(list, o.foot())
 		}
 	}
 	slices.Sort(list)
 	return func() int {
-		y := list[0]
+		first := list[0]
 		list = list[1:]
-		return y
+		return first
 	}
 }
 

@@ -187,6 +187,31 @@ func TestFloatsEdges(t *testing.T) {
 	}
 }
 
+// P120, 3: Drop: the least height at which there is room beside floats, or none is.
+func TestFloatsDrop(t *testing.T) {
+	f := New(100)
+	wantAdds(t, f, []one{{left, 40, 20, 0, 0, 0}, {right, 30, 10, 0, 70, 0}, {left, 90, 0, 30, 0, 30}})
+	for _, c := range []struct{ w, y, want int }{
+		{30, 0, 0}, {31, 0, 10}, {60, 0, 10}, {61, 0, 20}, {100, 0, 20}, {101, 0, 20}, {999, 0, 20},
+		{31, 5, 10}, {61, 10, 20}, {61, 19, 20}, {61, 25, 25}, {11, 30, 31}, {10, 30, 30},
+		{31, -1, -1}, {math.MaxInt, math.MinInt, -api.MaxLen}, {-5, 0, 0}, {math.MinInt, math.MaxInt, api.MaxLen},
+	} {
+		if got := f.Drop(c.w, c.y); got != c.want {
+			t.Errorf("%+v: %d", c, got)
+		}
+	}
+	// In a room that floats leave less than nothing of, there is no room for nothing.
+	if got := f.In(0, 20).Drop(0, 0); got != 20 {
+		t.Error(got)
+	}
+	if got := f.In(50, 60).Drop(11, 0); got != 20 {
+		t.Error(got)
+	}
+	if got := New(10).Drop(50, 7); got != 7 {
+		t.Error(got)
+	}
+}
+
 // P91: Clear: where the lowest of a side ends, whichever came last.
 func TestFloatsClear(t *testing.T) {
 	f := New(100)

@@ -62,6 +62,14 @@ func (m *modelFloats) add(low, high int, right bool, w, h, from int) (x, y int) 
 	}
 }
 
+func (m *modelFloats) drop(low, high, w, y int) int {
+	for ; ; y++ {
+		if l, r, count := m.between(low, high, y, 1); count == 0 || w <= r-l {
+			return y
+		}
+	}
+}
+
 func (m *modelFloats) clear(left, right bool) int {
 	var ends []int
 	for _, f := range m.all {
@@ -119,6 +127,10 @@ func ask(t *testing.T, c *rand.Rand, m *modelFloats, r room) {
 	l, e := r.f.Edges(y, h)
 	if wantL, wantE, _ := m.between(r.low, r.high, y, h); l != wantL || e != wantE {
 		t.Fatalf("in %d to %d, from %d on, %d high: %d, %d, want %d, %d; all: %+v", r.low, r.high, y, h, l, e, wantL, wantE, m.all)
+	}
+	w := c.Intn(40) - 5
+	if got, want := r.f.Drop(w, y), m.drop(r.low, r.high, w, y); got != want {
+		t.Fatalf("in %d to %d, %d wide from %d on: %d, want %d; all: %+v", r.low, r.high, w, y, got, want, m.all)
 	}
 	left, right := c.Intn(2) > 0, c.Intn(2) > 0
 	if got, want := r.f.Clear(left, right), m.clear(left, right); got != want {

@@ -37,3 +37,12 @@ func Firsts[T any](l []T, most int) []T {
 func Gaps(things, gap int) int {
 	return max(things-1, 0) * gap
 }
+
+// Over: n over a number above 0, rounded down where Go's own way is towards 0.
+func Over(n, by int) int {
+	whole := n / by
+	if n%by < 0 {
+		whole--
+	}
+	return whole
+}

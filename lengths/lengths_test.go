@@ -83,3 +83,12 @@ func TestGaps(t *testing.T) {
 		}
 	}
 }
+
+// What is divided is rounded down, below 0 too.
+func TestOver(t *testing.T) {
+	for _, c := range []struct{ n, by, want int }{{0, 5, 0}, {9, 5, 1}, {10, 5, 2}, {-1, 5, -1}, {-10, 5, -2}, {-11, 5, -3}, {math.MinInt, 1, math.MinInt}, {math.MaxInt, 2, math.MaxInt / 2}} {
+		if got := Over(c.n, c.by); got != c.want {
+			t.Errorf("%+v: %d", c, got)
+		}
+	}
+}

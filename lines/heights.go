@@ -3,6 +3,7 @@ package lines
 import (
 	"casement/api"
 	"casement/ink"
+	"casement/lengths"
 )
 
 // span: how far something stands above and below a line's base.
@@ -15,7 +16,7 @@ func spanOf(it Item) span {
 	}
 	ascent, descent := ink.Ascent(it.Size), ink.Descent(it.Size)
 	high := heightOf(it.Size, it.High)
-	above := ascent + over(high-ascent-descent, 2)
+	above := ascent + lengths.Over(high-ascent-descent, 2)
 	return span{above + it.Rise, high - above - it.Rise}
 }
 
@@ -27,16 +28,7 @@ func (s span) around(o span) span {
 // heightOf lines of letters.
 func heightOf(size, high int) int {
 	if high < 0 {
-		return over(size*5, 4)
+		return lengths.Over(size*5, 4)
 	}
 	return high
-}
-
-// over: n over a number above 0, rounded down where Go's own way is towards 0.
-func over(n, by int) int {
-	q := n / by
-	if n%by < 0 {
-		q--
-	}
-	return q
 }

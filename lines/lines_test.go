@@ -48,8 +48,8 @@ func TestBoundOfTexts(t *testing.T) {
 	wantBound(t, "other kinds", page(9), list(run(half), Item{Kind: api.IBreak, Text: half}, Item{Text: "a"}), true)
 }
 
-// lengths of all that is handed over, one by one.
-func lengths(p *Para, it *Item, h *Hole) map[string]*int {
+// allLengths: those of all that is handed over, one by one.
+func allLengths(p *Para, it *Item, h *Hole) map[string]*int {
 	return map[string]*int{
 		"Width": &p.Width, "Indent": &p.Indent, "strut's Size": &p.Size, "strut's High": &p.High,
 		"Size": &it.Size, "High": &it.High, "Rise": &it.Rise, "W": &it.W, "H": &it.H, "Base": &it.Base,
@@ -59,11 +59,11 @@ func lengths(p *Para, it *Item, h *Hole) map[string]*int {
 
 // P84: no length is of more than MaxLen in size; it does not matter which kind of item has it.
 func TestBoundOfLengths(t *testing.T) {
-	for name := range lengths(&Para{}, &Item{}, &Hole{}) {
+	for name := range allLengths(&Para{}, &Item{}, &Hole{}) {
 		for _, n := range []int{api.MaxLen, -api.MaxLen, api.MaxLen + 1, -api.MaxLen - 1, math.MaxInt, math.MinInt} {
 			for kind := 0; kind <= api.IBreak+1; kind++ {
 				p, it, h := page(100), Item{Kind: kind, Text: "a b"}, Hole{}
-				*lengths(&p, &it, &h)[name] = n
+				*allLengths(&p, &it, &h)[name] = n
 				p.Holes = []Hole{{}, h}
 				what := fmt.Sprint(name, " ", n, " of kind ", kind)
 				wantBound(t, what, p, list(run("c"), it), n > api.MaxLen || n < -api.MaxLen)
