@@ -49,11 +49,11 @@ func (f *Floats) Add(right bool, w, h, from int) (x, y int) {
 	return x, y
 }
 
-// Drop: the least height, from y on, at which what is so wide, and flat, has room beside the floats that are there, or none is.
-func (f *Floats) Drop(w, y int) int {
-	lengths.Hold(&w, &y)
-	y, _ = f.fall(w, 0, y)
-	return y
+// Drop: in a room from low to high, the least height, from y on, at which what is so wide, and flat, has room beside the floats that are there, or none is; and where the room that they leave begins there. No number is held here: what many lengths make together, one below or beside the other, lies further out than one of them reaches.
+func (f *Floats) Drop(low, high, w, y int) (l, at int) {
+	room := Floats{f.list, low, max(low, high)}
+	at, g := room.fall(w, 0, y)
+	return g.left, at
 }
 
 // fall: the least height, from y on, at which what is so wide and high may lie, and the gap there.
@@ -99,7 +99,8 @@ type gap struct {
 func (f *Floats) gap(y, h int) gap {
 	g := gap{f.low, f.high, true}
 	for _, o := range *f.list {
-		if o.Rect.Y >= y+max(h, 1) || y >= o.foot() {
+		// Of the two, y alone may be as great as a number can be.
+		if o.Rect.Y-max(h, 1) >= y || y >= o.foot() {
 			continue
 		}
 		g.whole = false

@@ -187,28 +187,51 @@ func TestFloatsEdges(t *testing.T) {
 	}
 }
 
-// P120, 3: Drop: the least height at which there is room beside floats, or none is.
+// P120, 3: Drop: the least height at which there is room beside floats, or none is, and where that room begins.
 func TestFloatsDrop(t *testing.T) {
 	f := New(100)
 	wantAdds(t, f, []one{{left, 40, 20, 0, 0, 0}, {right, 30, 10, 0, 70, 0}, {left, 90, 0, 30, 0, 30}})
-	for _, c := range []struct{ w, y, want int }{
-		{30, 0, 0}, {31, 0, 10}, {60, 0, 10}, {61, 0, 20}, {100, 0, 20}, {101, 0, 20}, {999, 0, 20},
-		{31, 5, 10}, {61, 10, 20}, {61, 19, 20}, {61, 25, 25}, {11, 30, 31}, {10, 30, 30},
-		{31, -1, -1}, {math.MaxInt, math.MinInt, -api.MaxLen}, {-5, 0, 0}, {math.MinInt, math.MaxInt, api.MaxLen},
+	for _, c := range []struct{ low, high, w, y, l, at int }{
+		{0, 100, 30, 0, 40, 0}, {0, 100, 31, 0, 40, 10}, {0, 100, 60, 0, 40, 10}, {0, 100, 61, 0, 0, 20}, {0, 100, 100, 0, 0, 20}, {0, 100, 101, 0, 0, 20}, {0, 100, 999, 0, 0, 20},
+		{0, 100, 31, 5, 40, 10}, {0, 100, 61, 10, 0, 20}, {0, 100, 61, 19, 0, 20}, {0, 100, 61, 25, 0, 25}, {0, 100, 11, 30, 0, 31}, {0, 100, 10, 30, 90, 30},
+		{0, 100, 31, -1, 0, -1}, {0, 100, -5, 0, 40, 0},
+		// In a room that floats leave less than nothing of, there is no room for nothing.
+		{0, 20, 0, 0, 0, 20},
+		{50, 60, 10, 0, 50, 0}, {50, 60, 11, 0, 50, 20},
+		// A room that ends ahead of its beginning ends there.
+		{50, 30, 0, 0, 50, 0}, {50, 30, 1, 0, 50, 20},
 	} {
-		if got := f.Drop(c.w, c.y); got != c.want {
-			t.Errorf("%+v: %d", c, got)
-		}
+		wantDrop(t, f, c.low, c.high, c.w, c.y, c.l, c.at)
 	}
-	// In a room that floats leave less than nothing of, there is no room for nothing.
-	if got := f.In(0, 20).Drop(0, 0); got != 20 {
-		t.Error(got)
+	wantDrop(t, New(10), 0, 10, 50, 7, 0, 7)
+}
+
+func wantDrop(t *testing.T, f *Floats, low, high, w, y, l, at int) {
+	t.Helper()
+	if gotL, gotAt := f.Drop(low, high, w, y); gotL != l || gotAt != at {
+		t.Errorf("in %d to %d, %d wide from %d on: %d, %d, want %d, %d", low, high, w, y, gotL, gotAt, l, at)
 	}
-	if got := f.In(50, 60).Drop(11, 0); got != 20 {
-		t.Error(got)
+}
+
+// P120, 3: Drop takes numbers as they are, however far out they lie.
+func TestFloatsDropFar(t *testing.T) {
+	const far = 3 * api.MaxLen
+	f := New(api.MaxLen)
+	for _, c := range []struct{ low, high, w, y int }{
+		{0, 100, 200, far}, {0, 100, 200, -far}, {0, 100, far, -far}, {far, far + 100, 50, 0}, {-far, -far + 100, 50, 0}, {-far, far, far, far},
+		{0, 100, math.MaxInt, math.MinInt}, {0, 100, math.MinInt, math.MaxInt}, {math.MinInt, math.MaxInt, 0, 0}, {math.MaxInt, math.MinInt, 0, 0},
+	} {
+		wantDrop(t, f, c.low, c.high, c.w, c.y, c.low, c.y)
 	}
-	if got := New(10).Drop(50, 7); got != 7 {
-		t.Error(got)
+	wantAdds(t, f, []one{{left, 20, api.MaxLen, 640, 0, 640}})
+	const foot = 640 + api.MaxLen
+	for _, c := range []struct{ low, high, w, y, l, at int }{
+		{0, 100, 80, foot - 1, 20, foot - 1}, {0, 100, 81, foot - 1, 0, foot}, {0, 100, 80, foot, 0, foot}, {0, 100, 100, 640, 0, foot}, {0, 100, 100, far, 0, far},
+		{0, 100, 100, -far, 0, -far}, {0, api.MaxLen, api.MaxLen + 640, 640, 0, foot}, {0, far, far - 20, 640, 20, 640}, {0, far, far - 19, 640, 0, foot},
+		{far, far + 100, 100, 640, far, 640}, {far, far + 100, 101, 640, far, foot}, {-far, -far + 100, 0, 640, -far, foot}, {-far, 100, 80, 640, 20, 640},
+		{0, 100, math.MaxInt, 640, 0, foot}, {0, 100, math.MaxInt, math.MaxInt, 0, math.MaxInt}, {0, 100, math.MaxInt, math.MinInt, 0, math.MinInt}, {0, 100, math.MinInt, 640, 20, 640},
+	} {
+		wantDrop(t, f, c.low, c.high, c.w, c.y, c.l, c.at)
 	}
 }
 

@@ -62,10 +62,10 @@ func (m *modelFloats) add(low, high int, right bool, w, h, from int) (x, y int) 
 	}
 }
 
-func (m *modelFloats) drop(low, high, w, y int) int {
+func (m *modelFloats) drop(low, high, w, y int) (left, at int) {
 	for ; ; y++ {
 		if l, r, count := m.between(low, high, y, 1); count == 0 || w <= r-l {
-			return y
+			return l, y
 		}
 	}
 }
@@ -129,8 +129,9 @@ func ask(t *testing.T, c *rand.Rand, m *modelFloats, r room) {
 		t.Fatalf("in %d to %d, from %d on, %d high: %d, %d, want %d, %d; all: %+v", r.low, r.high, y, h, l, e, wantL, wantE, m.all)
 	}
 	w := c.Intn(40) - 5
-	if got, want := r.f.Drop(w, y), m.drop(r.low, r.high, w, y); got != want {
-		t.Fatalf("in %d to %d, %d wide from %d on: %d, want %d; all: %+v", r.low, r.high, w, y, got, want, m.all)
+	l, at := r.f.Drop(r.low, r.high, w, y)
+	if wantL, wantAt := m.drop(r.low, r.high, w, y); l != wantL || at != wantAt {
+		t.Fatalf("in %d to %d, %d wide from %d on: %d, %d, want %d, %d; all: %+v", r.low, r.high, w, y, l, at, wantL, wantAt, m.all)
 	}
 	left, right := c.Intn(2) > 0, c.Intn(2) > 0
 	if got, want := r.f.Clear(left, right), m.clear(left, right); got != want {

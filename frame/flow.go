@@ -46,10 +46,8 @@ type lane struct {
 	in room
 }
 
-// floats as they are told in this room.
-func (l lane) floats() *flows.Floats {
-	return l.list.In(l.x, l.x+l.in.wide.n)
-}
+// end of the room.
+func (l lane) end() int { return l.x + l.in.wide.n }
 
 // all parts of a list, one behind the other.
 func (l lane) all(list []*part) []*piece {
@@ -78,7 +76,7 @@ func (l lane) aside(p *part) *piece {
 		from = max(from, end.n)
 	}
 	wide, high := c.outer()
-	c.put(l.floats().Add(p.says(api.PFloat, "right"), wide, high, from))
+	c.put(l.list.In(l.x, l.end()).Add(p.says(api.PFloat, "right"), wide, high, from))
 	return c
 }
 
@@ -103,9 +101,8 @@ func (l lane) block(p *part) *piece {
 // strand: a block that has room beside the floats, or lies below them.
 func (l lane) strand(c *piece, left, wide int) {
 	l.setDown()
-	floats := l.floats()
-	l.y = max(l.y, floats.Drop(left+c.rect.W+c.margin.right, l.y))
-	edge, _ := floats.Edges(l.y, 1)
+	edge, y := l.list.Drop(l.x, l.end(), left+c.rect.W+c.margin.right, l.y)
+	l.y = y
 	c.rect.X += edge - l.x
 	c.rect.Y = l.y
 	c.fill(wide, c.down.held())

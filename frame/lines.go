@@ -54,7 +54,7 @@ func (l lane) hole(f flows.Float) lines.Hole {
 	top := f.Rect.Y - l.at()
 	h := lines.Hole{Top: top, Bottom: top + f.Rect.H}
 	if f.Right {
-		h.Right = max(l.x+l.in.wide.n-f.Rect.X, 0)
+		h.Right = max(l.end()-f.Rect.X, 0)
 	} else {
 		h.Left = max(f.Rect.X+f.Rect.W-l.x, 0)
 	}

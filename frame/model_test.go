@@ -176,6 +176,30 @@ func (s *stream) clear(b *boxes.Box) *int {
 	return end
 }
 
+// between: L and R at y, in a room, and whether no float is there.
+func (s *stream) between(low, high int) (l, r int, alone bool) {
+	lefts, rights := []int{low}, []int{high}
+	for _, f := range s.floats.All() {
+		switch {
+		case f.Rect.Y > s.y || s.y >= f.Rect.Y+max(f.Rect.H, 1):
+		case f.Right:
+			rights = append(rights, f.Rect.X)
+		default:
+			lefts = append(lefts, f.Rect.X+f.Rect.W)
+		}
+	}
+	return slices.Max(lefts), slices.Min(rights), len(lefts)+len(rights) == 2
+}
+
+// next y at which other floats are there than at y.
+func (s *stream) next() int {
+	var all []int
+	for _, f := range s.floats.All() {
+		all = append(all, f.Rect.Y, f.Rect.Y+max(f.Rect.H, 1))
+	}
+	return slices.Min(slices.DeleteFunc(all, func(y int) bool { return y <= s.y }))
+}
+
 // blocks: the kids of a block, in a room.
 func (t *telling) blocks(s *stream, list []*boxes.Box, x, w int, ch *int) []*mark {
 	var out []*mark
@@ -215,16 +239,13 @@ func (t *telling) block(s *stream, b *boxes.Box, x, w int, ch *int) *mark {
 	if t.up[b] == nil || b.Kind != api.BBlock || word(b, api.POverflow) == "hidden" {
 		s.set()
 		need := l + edgesAt(b, api.PWidth, &w) + inner + marginAt(b, right, &w)
-		room := s.floats.In(x, x+w)
-		for {
-			from, to := room.Edges(s.y, 1)
-			if need <= to-from || !slices.ContainsFunc(s.floats.All(), func(f flows.Float) bool { return f.Rect.Y <= s.y && s.y < f.Rect.Y+max(f.Rect.H, 1) }) {
-				m, _ = t.strand(b, inner, high, w, ch, false)
-				m.shift(from+l, s.y)
-				break
-			}
-			s.y++
+		from, to, alone := s.between(x, x+w)
+		for !alone && need > to-from {
+			s.y = s.next()
+			from, to, alone = s.between(x, x+w)
 		}
+		m, _ = t.strand(b, inner, high, w, ch, false)
+		m.shift(from+l, s.y)
 		s.y += m.rect.H
 	} else {
 		m = t.through(s, b, x+l, inner, w, ch, high)
