@@ -49,10 +49,9 @@ func (f *Floats) Add(right bool, w, h, from int) (x, y int) {
 	return x, y
 }
 
-// Drop: in a room from low to high, the least height, from y on, at which what is so wide, and flat, has room beside the floats that are there, or none is; and where the room that they leave begins there. No number is held here: what many lengths make together, one below or beside the other, lies further out than one of them reaches.
-func (f *Floats) Drop(low, high, w, y int) (l, at int) {
-	room := Floats{f.list, low, max(low, high)}
-	at, g := room.fall(w, 0, y)
+// Drop: the least height, from y on, at which what is so wide, and flat, has room beside the floats that are there, or none is; and where the room that they leave begins there. The room is held, as In has it; the width and y are not: what many lengths make together, one below or beside the other, lies further out than one of them reaches.
+func (f *Floats) Drop(w, y int) (l, at int) {
+	at, g := f.fall(w, 0, y)
 	return g.left, at
 }
 

@@ -201,37 +201,40 @@ func TestFloatsDrop(t *testing.T) {
 		// A room that ends ahead of its beginning ends there.
 		{50, 30, 0, 0, 50, 0}, {50, 30, 1, 0, 50, 20},
 	} {
-		wantDrop(t, f, c.low, c.high, c.w, c.y, c.l, c.at)
+		wantDrop(t, f.In(c.low, c.high), c.w, c.y, c.l, c.at)
 	}
-	wantDrop(t, New(10), 0, 10, 50, 7, 0, 7)
+	wantDrop(t, New(10), 50, 7, 0, 7)
 }
 
-func wantDrop(t *testing.T, f *Floats, low, high, w, y, l, at int) {
+func wantDrop(t *testing.T, f *Floats, w, y, l, at int) {
 	t.Helper()
-	if gotL, gotAt := f.Drop(low, high, w, y); gotL != l || gotAt != at {
-		t.Errorf("in %d to %d, %d wide from %d on: %d, %d, want %d, %d", low, high, w, y, gotL, gotAt, l, at)
+	if gotL, gotAt := f.Drop(w, y); gotL != l || gotAt != at {
+		t.Errorf("in %d to %d, %d wide from %d on: %d, %d, want %d, %d", f.low, f.high, w, y, gotL, gotAt, l, at)
 	}
 }
 
-// P120, 3: Drop takes numbers as they are, however far out they lie.
+// P120, 3: Drop takes a width and a height as they are, however far out they lie; its room is In's.
 func TestFloatsDropFar(t *testing.T) {
-	const far = 3 * api.MaxLen
-	f := New(api.MaxLen)
-	for _, c := range []struct{ low, high, w, y int }{
-		{0, 100, 200, far}, {0, 100, 200, -far}, {0, 100, far, -far}, {far, far + 100, 50, 0}, {-far, -far + 100, 50, 0}, {-far, far, far, far},
-		{0, 100, math.MaxInt, math.MinInt}, {0, 100, math.MinInt, math.MaxInt}, {math.MinInt, math.MaxInt, 0, 0}, {math.MaxInt, math.MinInt, 0, 0},
+	const most, far = api.MaxLen, 3 * api.MaxLen
+	f := New(most)
+	for _, c := range []struct{ low, high, w, y, l int }{
+		{0, 100, 200, far, 0}, {0, 100, 200, -far, 0}, {0, 100, far, -far, 0},
+		{far, far + 100, 50, 0, most}, {-far, -far + 100, 50, 0, -most}, {-far, far, far, far, -most},
+		{0, 100, math.MaxInt, math.MinInt, 0}, {0, 100, math.MinInt, math.MaxInt, 0}, {math.MinInt, math.MaxInt, 0, 0, -most}, {math.MaxInt, math.MinInt, 0, 0, most},
 	} {
-		wantDrop(t, f, c.low, c.high, c.w, c.y, c.low, c.y)
+		wantDrop(t, f.In(c.low, c.high), c.w, c.y, c.l, c.y)
 	}
-	wantAdds(t, f, []one{{left, 20, api.MaxLen, 640, 0, 640}})
-	const foot = 640 + api.MaxLen
+	wantAdds(t, f, []one{{left, 20, most, 640, 0, 640}})
+	const foot = 640 + most
 	for _, c := range []struct{ low, high, w, y, l, at int }{
 		{0, 100, 80, foot - 1, 20, foot - 1}, {0, 100, 81, foot - 1, 0, foot}, {0, 100, 80, foot, 0, foot}, {0, 100, 100, 640, 0, foot}, {0, 100, 100, far, 0, far},
-		{0, 100, 100, -far, 0, -far}, {0, api.MaxLen, api.MaxLen + 640, 640, 0, foot}, {0, far, far - 20, 640, 20, 640}, {0, far, far - 19, 640, 0, foot},
-		{far, far + 100, 100, 640, far, 640}, {far, far + 100, 101, 640, far, foot}, {-far, -far + 100, 0, 640, -far, foot}, {-far, 100, 80, 640, 20, 640},
+		{0, 100, 100, -far, 0, -far}, {0, most, most + 640, 640, 0, foot},
+		// A room that reaches beyond MaxLen ends there.
+		{0, far, most - 20, 640, 20, 640}, {0, far, most - 19, 640, 0, foot}, {0, far, far - 20, 640, 0, foot}, {0, most + 20, most, 640, 0, foot},
+		{far, far + 100, 0, 640, most, 640}, {far, far + 100, 1, 640, most, foot}, {-far, -far + 100, 0, 640, -most, foot}, {-far, 100, 80, 640, 20, 640}, {-far, 100, 81, 640, -most, foot},
 		{0, 100, math.MaxInt, 640, 0, foot}, {0, 100, math.MaxInt, math.MaxInt, 0, math.MaxInt}, {0, 100, math.MaxInt, math.MinInt, 0, math.MinInt}, {0, 100, math.MinInt, 640, 20, 640},
 	} {
-		wantDrop(t, f, c.low, c.high, c.w, c.y, c.l, c.at)
+		wantDrop(t, f.In(c.low, c.high), c.w, c.y, c.l, c.at)
 	}
 }
 

@@ -129,7 +129,7 @@ func ask(t *testing.T, c *rand.Rand, m *modelFloats, r room) {
 		t.Fatalf("in %d to %d, from %d on, %d high: %d, %d, want %d, %d; all: %+v", r.low, r.high, y, h, l, e, wantL, wantE, m.all)
 	}
 	w := c.Intn(40) - 5
-	l, at := r.f.Drop(r.low, r.high, w, y)
+	l, at := r.f.Drop(w, y)
 	if wantL, wantAt := m.drop(r.low, r.high, w, y); l != wantL || at != wantAt {
 		t.Fatalf("in %d to %d, %d wide from %d on: %d, %d, want %d, %d; all: %+v", r.low, r.high, w, y, l, at, wantL, wantAt, m.all)
 	}

@@ -24,9 +24,8 @@ func holdFar(t *testing.T, pages []farPage) {
 	}
 }
 
-// P120, 3: where no float is, a strand does not go down, and is not moved, however far out it lies.
+// P120, 3: where no float is, a strand does not go down, however far out it lies.
 func TestStrandFarAlone(t *testing.T) {
-	const deep = `<div><p><s><h></h></s></p></div>`
 	holdFar(t, []farPage{
 		{100, pageOf{`<div><h></h><h></h></div>`, `h{margin-top:-200000px}`,
 			`B1:0,0,100,0(B2:0,-200000,100,0 B3:0,-400000,100,0)`}},
@@ -34,12 +33,23 @@ func TestStrandFarAlone(t *testing.T) {
 			`B1:0,0,100,0(F2:0,-200000,100,0 G3:0,-400000,100,0)`}},
 		{100, pageOf{`<div><h></h><h></h></div>`, `h{margin-top:200000px;height:1px}`,
 			`B1:0,0,100,400002(B2:0,200000,100,1 B3:0,400001,100,1)`}},
+		{100, pageOf{`<div><h></h></div>`, `div{margin-left:-262144px}`,
+			`B1:-262144,0,262244,0(B2:-262144,0,262144,0)`}},
+	})
+}
+
+// P120, 3 and P91: the room that a strand is held against is In's, so L is at most MaxLen in size: a strand in a room that begins further out stands as far from there as L does.
+func TestStrandFarBeside(t *testing.T) {
+	const deep = `<div><p><s><h></h></s></p></div>`
+	holdFar(t, []farPage{
 		{100, pageOf{deep, `s{display:block}p,s{margin-left:200000px}`,
-			`B1:0,0,100,0(B2:200000,0,0,0(B3:400000,0,0,0(B4:400000,0,0,0)))`}},
+			`B1:0,0,100,0(B2:200000,0,0,0(B3:400000,0,0,0(B4:262144,0,0,0)))`}},
 		{100, pageOf{deep, `s{display:block}p,s{margin-left:-200000px;width:50px}`,
-			`B1:0,0,100,0(B2:-200000,0,50,0(B3:-400000,0,50,0(B4:-400000,0,50,0)))`}},
+			`B1:0,0,100,0(B2:-200000,0,50,0(B3:-400000,0,50,0(B4:-262144,0,50,0)))`}},
 		{100, pageOf{deep, `s{display:block}p,s{padding-left:200000px}h{margin-left:5px;width:7px}`,
-			`B1:0,0,100,0(B2:0,0,200000,0(B3:200000,0,200000,0(B4:400005,0,7,0)))`}},
+			`B1:0,0,100,0(B2:0,0,200000,0(B3:200000,0,200000,0(B4:262149,0,7,0)))`}},
+		{100, pageOf{deep, `s{display:block}p,s{margin-left:131072px}`,
+			`B1:0,0,100,0(B2:131072,0,0,0(B3:262144,0,0,0(B4:262144,0,0,0)))`}},
 	})
 }
 
@@ -81,11 +91,15 @@ func TestStrandFarWide(t *testing.T) {
 			`B1:0,0,262144,0(B2:0,0,0,0 B3:10,0,262144,0)`}},
 		{262144, pageOf{`<div><b></b><h></h></div>`, `b{float:left;height:7px}h{width:262144px;padding-left:10px}`,
 			`B1:0,0,262144,7(B2:0,0,0,7 B3:0,7,262154,0)`}},
-		// A room of 400100 pixels, of which a float takes 10.
-		{100, pageOf{`<div><p><s><b></b><h></h></s></p></div>`, `s{display:block}p,s{margin-right:-200000px}b{float:left;width:10px;height:5px}h{width:262144px;padding-left:137946px}`,
-			`B1:0,0,100,5(B2:0,0,200100,0(B3:0,0,400100,0(B4:0,0,10,5 B5:10,0,400090,0)))`}},
-		{100, pageOf{`<div><p><s><b></b><h></h></s></p></div>`, `s{display:block}p,s{margin-right:-200000px}b{float:left;width:10px;height:5px}h{width:262144px;padding-left:137947px}`,
-			`B1:0,0,100,5(B2:0,0,200100,5(B3:0,0,400100,5(B4:0,0,10,5 B5:0,5,400091,0)))`}},
+		// A room of 262244 pixels, which In tells as one of 262144; a float takes 2 of them.
+		{100, pageOf{`<div><b></b><h></h></div>`, `div{margin-right:-262144px}b{float:left;width:2px;height:10px}`,
+			`B1:0,0,262244,10(B2:0,0,2,10 B3:0,10,262144,0)`}},
+		{100, pageOf{`<div><b></b><h></h></div>`, `div{margin-right:-262144px}b{float:left;width:2px;height:10px}h{width:262142px}`,
+			`B1:0,0,262244,10(B2:0,0,2,10 B3:2,0,262142,0)`}},
+		{100, pageOf{`<div><b></b><h></h></div>`, `div{margin-right:-262144px}b{float:left;width:2px;height:10px}h{width:262143px}`,
+			`B1:0,0,262244,10(B2:0,0,2,10 B3:0,10,262143,0)`}},
+		{100, pageOf{`<div><b></b><h></h></div>`, `div{margin-right:-262144px}b{float:right;width:2px;height:10px}h{width:262143px}`,
+			`B1:0,0,262244,10(B2:262142,0,2,10 B3:0,10,262143,0)`}},
 	})
 }
 

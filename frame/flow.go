@@ -101,7 +101,7 @@ func (l lane) block(p *part) *piece {
 // strand: a block that has room beside the floats, or lies below them.
 func (l lane) strand(c *piece, left, wide int) {
 	l.setDown()
-	edge, y := l.list.Drop(l.x, l.end(), left+c.rect.W+c.margin.right, l.y)
+	edge, y := l.list.In(l.x, l.end()).Drop(left+c.rect.W+c.margin.right, l.y)
 	l.y = y
 	c.rect.X += edge - l.x
 	c.rect.Y = l.y

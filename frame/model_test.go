@@ -176,9 +176,10 @@ func (s *stream) clear(b *boxes.Box) *int {
 	return end
 }
 
-// between: L and R at y, in a room, and whether no float is there.
+// between: L and R at y, in a room as it is told when it is handed over, and whether no float is there.
 func (s *stream) between(low, high int) (l, r int, alone bool) {
-	lefts, rights := []int{low}, []int{high}
+	hold := func(n int) int { return max(min(n, 1<<24), -(1 << 24)) }
+	lefts, rights := []int{hold(low)}, []int{hold(high)}
 	for _, f := range s.floats.All() {
 		switch {
 		case f.Rect.Y > s.y || s.y >= f.Rect.Y+max(f.Rect.H, 1):
