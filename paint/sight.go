@@ -42,6 +42,15 @@ func (s *sight) inner() area {
 	return areaOf(s.Rect).less(s.borders())
 }
 
+// left of it when it is cut; false: nothing. What nothing is taken from is left, also if it has no width or height: then there is nothing to take.
+func (s *sight) left() (api.Rect, bool) {
+	whole := areaOf(s.Rect)
+	if left := whole.and(s.cut); left != whole {
+		return left.rect()
+	}
+	return s.Rect, true
+}
+
 // isPlaced: it makes a layer, or is lifted.
 func (s *sight) isPlaced() bool {
 	switch s.own(api.PPosition).Text {
