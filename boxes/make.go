@@ -13,22 +13,13 @@ type maker struct {
 	styles map[int]*cascade.Style // by elements
 }
 
-func newMaker(t *tree.Tree, root int, l []cascade.Source, v cascade.View) *maker {
-	m := &maker{make(counters), t, make(map[int]*cascade.Style)}
-	ids, styles := cascade.Styles(t, root, l, v)
-	for i, id := range ids {
-		m.styles[id] = &styles[i]
-	}
-	return m
-}
-
 // element: the boxes that one makes.
 func (m *maker) element(id int) []*Box {
 	style := m.styles[id]
-	display := style.V[api.PDisplay].Text
-	if display == "none" {
+	if style == nil || style.V[api.PDisplay].Text == "none" {
 		return nil
 	}
+	display := style.V[api.PDisplay].Text
 	m.count(style)
 	// What lies in a break is gone through as well, though no box comes of it: it counts.
 	kids := m.kids(id, style)

@@ -9,8 +9,9 @@ import (
 
 // block: what a rule of a sheet declares.
 type block struct {
-	finder *choose.Finder // of its head
-	base   bool           // it is of a base source
+	list   *choose.List // its head
+	finder *choose.Finder
+	base   bool // it is of a base source
 	lines  []line
 }
 
@@ -55,7 +56,7 @@ func (m *maker) blocksOf(l []Source, v View) []block {
 		for _, r := range s.Sheet.Rules {
 			list, err := choose.Read(r.Head)
 			if err == nil && sheet.Applies(r.Media, v.Width, v.Height) {
-				blocks = append(blocks, block{list.Finder(m.tree, v.State), s.Base, m.lines(r.Decls)})
+				blocks = append(blocks, block{list: list, base: s.Base, lines: m.lines(r.Decls)})
 			}
 		}
 	}

@@ -6,6 +6,7 @@ import (
 	"strings"
 
 	"casement/api"
+	"casement/choose"
 	"casement/tokens"
 	"casement/tree"
 )
@@ -23,16 +24,26 @@ type maker struct {
 
 // made: what an element has.
 type made struct {
-	values []api.Value
-	vars   map[string]tokens.Told
+	style Style
+	vars  map[string]tokens.Told
 }
 
 func newMaker(t *tree.Tree, l []Source, v View) *maker {
-	m := &maker{book: newBook(), tree: t, read: make(map[string]*value), texts: make(map[string]kept), made: make(map[int]made)}
+	m := &maker{book: newBook(), tree: t}
 	m.blocks = m.blocksOf(l, v)
+	m.turn(v.State)
 	first := wearer{maker: m}
-	m.top = made{values: first.values()}
+	m.top = made{style: Style{V: first.values()}}
 	return m
+}
+
+// turn to the tree as it is now, and to a state, of which nothing is known yet.
+func (m *maker) turn(s choose.State) {
+	m.read, m.texts, m.made = make(map[string]*value), make(map[string]kept), make(map[int]made)
+	for i := range m.blocks {
+		b := &m.blocks[i]
+		b.finder = b.list.Finder(m.tree, s)
+	}
 }
 
 // make an element's style. (Its parent's has been made, if it has one.)
@@ -41,13 +52,13 @@ func (m *maker) make(id int) Style {
 	if !ok {
 		parent = m.top
 	}
-	w := wearer{maker: m, won: m.winners(id), parent: parent.values}
+	w := wearer{maker: m, won: m.winners(id), parent: parent.style.V}
 	w.scope = m.scope(w.won, parent.vars)
-	one := made{vars: w.settle()}
-	one.values = w.values()
-	setRight(one.values, !ok)
-	m.made[id] = one
-	return Style{V: one.values, Vars: listed(one.vars)}
+	vars := w.settle()
+	s := Style{V: w.values(), Vars: listed(vars)}
+	setRight(s.V, !ok)
+	m.made[id] = made{s, vars}
+	return s
 }
 
 // value that a text is.

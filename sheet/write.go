@@ -67,8 +67,11 @@ func leaveOpen(text string) string {
 	return text[:end]
 }
 
-// alike: two sheets have the same rules.
-func alike(a, b *Sheet) bool {
+// Alike: two sheets have the same rules (or there is neither of them).
+func Alike(a, b *Sheet) bool {
+	if a == nil || b == nil {
+		return a == b
+	}
 	return slices.EqualFunc(a.Rules, b.Rules, func(a, b Rule) bool {
 		return a.Media == b.Media && a.Head == b.Head && slices.Equal(a.Decls, b.Decls)
 	})
